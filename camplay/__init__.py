@@ -1,0 +1,1 @@
+"""Camplay: plays of clockwork figures, told, counted, and made into drums."""
