@@ -10,8 +10,8 @@ PACKAGE = pathlib.Path(__file__).resolve().parent.parent / "camplay"
 NODES = {name: True for name in """
     Module FunctionDef arguments arg ClassDef ImportFrom alias Return Assign AugAssign For While If Break Continue Pass
     Raise Try ExceptHandler Expr Constant Name Load Store Attribute Subscript Slice Call keyword List Tuple Dict Set
-    ListComp comprehension JoinedStr FormattedValue Lambda IfExp BoolOp And Or UnaryOp Not USub UAdd Invert BinOp Add Sub
-    Mult FloorDiv Mod Pow LShift RShift BitAnd BitOr BitXor Compare Eq NotEq Lt LtE Gt GtE In NotIn Is IsNot
+    ListComp comprehension JoinedStr FormattedValue Lambda IfExp BoolOp And Or UnaryOp Not USub UAdd Invert BinOp Add
+    Sub Mult FloorDiv Mod Pow LShift RShift BitAnd BitOr BitXor Compare Eq NotEq Lt LtE Gt GtE In NotIn Is IsNot
     """.split()}
 OWN_OF_PYTHON = """
     len range enumerate zip min max sum abs sorted reversed int str bool list tuple dict set frozenset isinstance ord
@@ -119,6 +119,75 @@ def faults_of_top(tree):
             yield "L2 an import below the top"
 
 
+def is_plain(node, above):
+    if isinstance(node, (ast.List, ast.Tuple)):
+        return all(is_plain(one, above) for one in node.elts)
+    if isinstance(node, ast.Dict):
+        return all(is_plain(one, above) for one in node.keys + node.values)
+    return isinstance(node, ast.Constant) or isinstance(node, ast.Name) and node.id in above
+
+
+# Names of a file's top: plain values, bound once, and no local called like an import or a class.
+def faults_of_top_names(tree):
+    above = []
+    taken = []
+    for node in tree.body:
+        if isinstance(node, ast.Assign):
+            if not is_plain(node.value, above):
+                yield "L3 a value that is not plain"
+            bound = [node.targets[0].id]
+        elif isinstance(node, ast.ImportFrom):
+            bound = [name.asname or name.name for name in node.names]
+        else:
+            bound = [node.name] if isinstance(node, (ast.FunctionDef, ast.ClassDef)) else []
+        if isinstance(node, (ast.ImportFrom, ast.ClassDef)):
+            taken += bound
+        if any(name in above for name in bound):
+            yield "L15 bound twice"
+        above += bound
+    for node in ast.walk(tree):
+        name = node.arg if isinstance(node, ast.arg) else node.id if isinstance(node, ast.Name) else None
+        if name in taken and not (isinstance(node, ast.Name) and isinstance(node.ctx, ast.Load)):
+            yield "L15 a local called like an import: " + name
+
+
+def called(node):
+    return node.func.id if isinstance(node, ast.Call) and isinstance(node.func, ast.Name) else None
+
+
+def is_walk(node):
+    if isinstance(node, ast.Call) and isinstance(node.func, ast.Attribute):
+        return node.func.attr in ("items", "keys", "values")
+    return called(node) in ("zip", "enumerate", "reversed", "range")
+
+
+def is_walked(node, around):
+    if isinstance(around, (ast.For, ast.comprehension)):
+        return around.iter is node
+    if called(around) in ("min", "max"):
+        return around.args == [node]
+    if called(around) in ("list", "tuple", "dict", "sorted", "sum", "any", "all", "enumerate", "zip"):
+        return around.args[0] is node
+    return isinstance(around, ast.Call) and isinstance(around.func, ast.Attribute) and around.func.attr == "join"
+
+
+def is_set(node):
+    return isinstance(node, ast.Set) or called(node) in ("set", "frozenset")
+
+
+def faults_of_walks(tree):
+    around = {inner: node for node in ast.walk(tree) for inner in ast.iter_child_nodes(node)}
+    for node in ast.walk(tree):
+        if is_walk(node) and not is_walked(node, around[node]):
+            yield "L23 walked at once"
+        if is_set(node):
+            outer = around[node]
+            while isinstance(outer, ast.BinOp):
+                outer = around[outer]
+            if not (isinstance(outer, ast.Compare) or called(outer) in ("sorted", "len") and not outer.keywords):
+                yield "L24 a set"
+
+
 def faults_of_signs(text):
     if not re.fullmatch(r"[ -~\n]*", text):
         yield "L14 a sign"
@@ -143,6 +212,7 @@ def own_attributes(tree):
 def faults(text, own=()):
     tree = ast.parse(text)
     found = list(faults_of_signs(text)) + list(faults_of_top(tree))
+    found.extend(list(faults_of_top_names(tree)) + list(faults_of_walks(tree)))
     found.extend(faults_of_names(tree, list(own) + list(own_attributes(tree))))
     top = tree.body[:1]
     for node in ast.walk(tree):
@@ -160,7 +230,18 @@ WRONG = ("import os", "from os import path", "from .errors import NoBook", "x = 
          "def f(a):\n    return chr(a)", "def f(a):\n    return 2 ** a", "def f(a):\n    return a is a",
          "def f(a):\n    assert a", "def f(a):\n    with a:\n        pass", "class A:\n    x = 1", "# a type",
          "def _f():\n    return 1", "x = '\u00e4'", "def f(a):\n    return {b: b for b in a}", "x = b''",
-         "def f(a):\n    return " + "a + " * 40 + "a", "def f(a):\n" + "    a = a\n" * 40, "print(1)")
+         "def f(a):\n    return " + "a + " * 40 + "a", "def f(a):\n" + "    a = a\n" * 40, "print(1)",
+         "x = 10 ** 60", "x = 1\nx = 2", "from camplay.ramps import ramp\ndef f(ramp):\n    return ramp",
+         "from camplay.ramps import ramp\ndef f(a):\n    ramp = a\n    return ramp",
+         "def f(a):\n    b = range(a)\n    return b", "def f(a):\n    return a.items()",
+         "def f(a):\n    a.extend(reversed(a))", "def f(a):\n    return zip([], range(a))",
+         "def f(a):\n    return set(a)", "def f(a):\n    b = set(a) | set(a)\n    return b",
+         "def f(a):\n    for b in set(a):\n        a = b")
+# Forms that are near to wrong ones, and are not.
+RIGHT = ("def f(a):\n    return sorted(a.items())", "def f(a):\n    return len(set(a) | set(a))",
+         "def f(a):\n    return a in set(a)", "def f(a):\n    return list(zip(a, a))", "x = (1, 2)\ny = {'a': (1, 2)}",
+         "def f(a):\n    for b, c in enumerate(a[1:], start=1):\n        a = b + c\n    return a",
+         "def f(a):\n    return [b for b in range(a) if b]", "def f(a):\n    return 10 ** 60 + a")
 
 
 class Form(unittest.TestCase):
@@ -180,6 +261,28 @@ class Form(unittest.TestCase):
     def test_wrong_forms_are_seen(self):
         for text in WRONG:
             self.assertNotEqual(faults(text), [], text)
+
+    def test_right_forms_are_let_through(self):
+        for text in RIGHT:
+            self.assertEqual(faults(text), [], text)
+
+    # From the very file that defines the name, and never in a ring.
+    def test_files_draw_from_those_that_define_the_name(self):
+        trees = {path.stem: ast.parse(path.read_text(encoding="utf-8")) for path in PACKAGE.glob("*.py")}
+        drawn = {stem: [] for stem in trees}
+        for stem, tree in trees.items():
+            for node in tree.body:
+                if isinstance(node, ast.ImportFrom):
+                    source = node.module.split(".")[1]
+                    drawn[stem].append(source)
+                    defs = [one for one in trees[source].body if isinstance(one, (ast.FunctionDef, ast.ClassDef))]
+                    defined = [one.name for one in defs]
+                    for name in node.names:
+                        self.assertIn(name.name, defined, (stem, source))
+        while drawn:
+            free = [stem for stem in drawn if not any(source in drawn for source in drawn[stem])]
+            self.assertNotEqual(free, [], drawn)
+            drawn = {stem: drawn[stem] for stem in drawn if stem not in free}
 
 
 if __name__ == "__main__":
