@@ -2,26 +2,20 @@
 
 from camplay.books import numbers_of
 from camplay.errors import NoBeat
-from camplay.looks import ends, inner, lengths
+from camplay.looks import ends, lengths
 from camplay.ramps import ramp
+from camplay.strands import pieces_of, progress
 
 
-# How far the parts that a part names have come when so many beats of it are gone, but below its
-# length: tuples (number, beats gone). What has not begun is left out, and of what is over in an
-# again one turn is told, as each turn leaves its limbs at the same heights.
-def within(kind, inside, sizes, gone):
-    if kind == "side":
-        return [(part, gone) for part in inside]
-    if kind == "again":
-        part = inside[0]
-        over = [(part, sizes[part])] if gone >= sizes[part] else []
-        return over + [(part, gone % sizes[part])]
+# The parts that a part names as tuples (number, beats gone), when so many beats of it are gone, but
+# below its length. Of several turns that are over one is told, as each leaves its limbs at the same heights.
+def within(pieces, sizes, gone):
     found = []
-    for part in inside:
-        found.append((part, gone))
-        if gone < sizes[part]:
-            break
-        gone -= sizes[part]
+    for part, begin, over, rest in progress(pieces, sizes, gone):
+        if over > 0:
+            found.append((part, sizes[part]))
+        if rest is not None:
+            found.append((part, rest))
     return found
 
 
@@ -31,16 +25,16 @@ def within(kind, inside, sizes, gone):
 def reached(book, sizes, beat):
     if not 0 <= beat <= sizes[-1]:
         raise NoBeat()
-    inside = inner(book)
+    pieces = pieces_of(book, sizes)
     found = []
     todo = [(len(sizes) - 1, beat)]
     while todo:
         now = todo.pop()
         part = now[0]
-        if now[1] >= sizes[part] or not inside[part]:
+        if now[1] >= sizes[part] or not pieces[part]:
             found.append(now)
         else:
-            todo.extend(within(book[1][part][1][0], inside[part], sizes, now[1])[::-1])
+            todo.extend(within(pieces[part], sizes, now[1])[::-1])
     return found
 
 

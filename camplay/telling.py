@@ -2,19 +2,17 @@
 
 from camplay.books import numbers_of
 from camplay.errors import Long
-from camplay.looks import inner, lengths
+from camplay.looks import lengths
 from camplay.ramps import ramp
+from camplay.strands import pieces_of
 
 
-# The numbers of the parts that a part names, with the beats at which they begin where it begins at beat.
-def begins(form, inside, sizes, beat):
-    if form[0] == "side":
-        return [(part, beat) for part in inside]
-    turns = form[1] if form[0] == "again" else 1
+# The numbers of the parts that are named, with the beats at which they begin where the part that names
+# them begins at beat.
+def begins(pieces, sizes, beat):
     found = []
-    for part in inside * turns:
-        found.append((part, beat))
-        beat += sizes[part]
+    for part, turns, begin in pieces:
+        found.extend([(part, beat + begin + turn * sizes[part]) for turn in range(turns)])
     return found
 
 
@@ -22,16 +20,15 @@ def begins(form, inside, sizes, beat):
 # what is told of one limb, or of the words of one beat, comes in its order. No def calls itself for
 # this, as a chain of parts may be long.
 def begun(book, sizes):
-    inside = inner(book)
+    pieces = pieces_of(book, sizes)
     found = []
-    todo = [(len(inside) - 1, 0)]
+    todo = [(len(pieces) - 1, 0)]
     while todo:
         now = todo.pop()
-        form = book[1][now[0]][1]
-        if inside[now[0]]:
-            todo.extend(begins(form, inside[now[0]], sizes, now[1])[::-1])
+        if pieces[now[0]]:
+            todo.extend(begins(pieces[now[0]], sizes, now[1])[::-1])
         else:
-            found.append((form, now[1]))
+            found.append((book[1][now[0]][1], now[1]))
     return found
 
 

@@ -27,6 +27,8 @@ OUT = """
     type typing typing_extensions enum Enum IntEnum StrEnum Flag IntFlag Generic Protocol ABC ABCMeta namedtuple
     NamedTuple TypedDict TYPE_CHECKING abstractmethod
     """.split()
+PYTHON_ATTRIBUTES = [name for kind in (str, int, list, tuple, dict, set, bytes, ValueError) for name in dir(kind)]
+FREE_VALUES = "count index title find get join lower upper split strip copy add".split()
 PYTHON_NAMES = dir(__builtins__) if not isinstance(__builtins__, dict) else list(__builtins__)
 
 
@@ -198,15 +200,36 @@ def faults_of_signs(text):
             yield "L17 " + word
 
 
+def parts_of_classes(tree):
+    return [part for node in ast.walk(tree) if isinstance(node, ast.ClassDef) for part in ast.walk(node)]
+
+
+def own_methods(tree):
+    return [part.name for part in parts_of_classes(tree) if isinstance(part, ast.FunctionDef)]
+
+
+def own_values(tree):
+    stored = [part for part in parts_of_classes(tree) if isinstance(part, ast.Attribute)]
+    return [part.attr for part in stored if isinstance(part.ctx, ast.Store)]
+
+
 # The names that the package's own classes give to their methods and values.
 def own_attributes(tree):
-    for node in ast.walk(tree):
-        if isinstance(node, ast.ClassDef):
-            for part in ast.walk(node):
-                if isinstance(part, ast.FunctionDef):
-                    yield part.name
-                if isinstance(part, ast.Attribute) and isinstance(part.ctx, ast.Store):
-                    yield part.attr
+    return own_methods(tree) + own_values(tree)
+
+
+# Of all files together: what is a method somewhere is no value anywhere, and neither hides what Python's values have.
+def faults_of_attributes(trees):
+    methods = [name for tree in trees for name in own_methods(tree)]
+    values = [name for tree in trees for name in own_values(tree)]
+    for name in values:
+        if name in methods:
+            yield "L18 " + name
+        if name in PYTHON_ATTRIBUTES and name not in FREE_VALUES:
+            yield "L26 " + name
+    for name in methods:
+        if name in PYTHON_ATTRIBUTES and name not in METHODS + ["add", "discard"]:
+            yield "L26 " + name
 
 
 def faults(text, own=()):
@@ -251,6 +274,7 @@ class Form(unittest.TestCase):
         own = [name for text in texts for name in own_attributes(ast.parse(text))]
         for path, text in zip(paths, texts):
             self.assertEqual(faults(text, own), [], path.name)
+        self.assertEqual(list(faults_of_attributes([ast.parse(text) for text in texts])), [])
 
     def test_nothing_else_lies_in_the_package(self):
         found = [path for path in PACKAGE.iterdir() if path.name != "__pycache__"]
@@ -265,6 +289,15 @@ class Form(unittest.TestCase):
     def test_right_forms_are_let_through(self):
         for text in RIGHT:
             self.assertEqual(faults(text), [], text)
+
+    def test_names_of_methods_and_values(self):
+        start = "class A:\n    def __init__(self):\n        "
+        method = "class B:\n    def "
+        for texts in ((start + "self.go = 1", method + "go(self):\n        return 1"), (start + "self.items = []",),
+                      (start + "self.args = 1",), (method + "sort(self):\n        return 1",)):
+            self.assertNotEqual(list(faults_of_attributes([ast.parse(text) for text in texts])), [], texts)
+        texts = (start + "self.count = 1", method + "go(self):\n        return 1", start + "self.many = 1")
+        self.assertEqual(list(faults_of_attributes([ast.parse(text) for text in texts])), [])
 
     # From the very file that defines the name, and never in a ring.
     def test_files_draw_from_those_that_define_the_name(self):

@@ -1,5 +1,4 @@
 import copy
-import time
 import unittest
 
 from camplay.books import read
@@ -7,24 +6,9 @@ from camplay.errors import NoBeat
 from camplay.looks import ends, lengths
 from camplay.standing import rings, stand
 from camplay.telling import told
-from plays import chain, drawn_books, named, play_by
+from plays import GREAT, HOP, LIMBS, SMALL, Turns, chain, drawn_books, far_book, named, play_by, soon
 
-LIMBS = "limbs arm 0 leg 5\n"
-GREAT = 10 ** 18
-# One small play of 12 beats: hop ends at [1, 5].
-HOP = LIMBS + """part up raise arm 7 3
-part down raise arm 1 4
-part bell ring ding 1
-part kick raise leg 0 2
-part back raise leg 5 5
-part arms row bell up bell down
-part legs row kick bell back
-part both side legs arms
-part wait hold 3
-part hop row both wait
-"""
 HOP_PARTS = 10
-SECONDS = 1
 
 
 def asked(book, beat):
@@ -50,27 +34,8 @@ class EachForm(unittest.TestCase):
                          [([0, 5], ["ding"]), ([1, 5], []), ([2, 3], []), ([3, 1], ["ding"]), ([4, 1], [])])
 
     def test_each_form(self):
-        self.same(LIMBS + "part a raise arm 9 4")
-        self.same(LIMBS + "part a hold 4")
-        self.same(LIMBS + "part a ring ding 4")
-        self.same(LIMBS + "part a raise arm 9 4\npart b hold 2\npart c ring dong 3\npart d raise arm 2 5\n"
-                  "part e row a b c d c")
-        self.same(LIMBS + "part a raise arm 9 4\npart b raise leg 0 7\npart c side a b")
-        self.same(LIMBS + "part a raise arm 9 4\npart b raise arm 2 3\npart c ring ding 2\npart d row c a b\n"
-                  "part e again 5 d")
-        self.same(LIMBS + "part a raise arm 9 4\npart e again 5 a")
-
-    def test_a_side_whose_parts_are_over_at_unlike_beats(self):
-        for names in ("a b c d", "d c b a", "c a d b"):
-            self.same("limbs w 9 x 8 y 7 z 6\npart a raise w 0 1\npart b raise x 0 4\npart bell ring ding 2\n"
-                      "part up raise y 20 3\npart c row bell up bell\npart e raise z 2 2\npart d again 6 e\n"
-                      f"part s side {names}\npart p row bell s s bell")
-
-    def test_forms_within_forms(self):
-        for rows in ("part p again 3 hop", "part p row hop hop up hop", "part q again 2 hop\npart p row wait q both q",
-                     "part q row down hop\npart p again 4 q",
-                     "part q again 3 arms\npart r again 2 legs\npart p side q r"):
-            self.same(HOP + rows)
+        for text in SMALL:
+            self.same(text)
 
     def test_made_books_at_every_beat(self):
         for book in drawn_books():
@@ -127,13 +92,6 @@ class Beats(unittest.TestCase):
 
 
 class FarBeats(unittest.TestCase):
-    # The time is that which the program itself takes, so that a busy machine makes no fault of it.
-    def asked_soon(self, book, beat):
-        begin = time.process_time()
-        found = asked(book, beat)
-        self.assertLess(time.process_time() - begin, SECONDS)
-        return found
-
     # From its second turn on each turn of a part tells the same.
     def turn_of(self, text):
         play = play_by(read(text + "part zz again 2 " + text.split("\n")[-2].split(" ")[1]))
@@ -150,7 +108,7 @@ class FarBeats(unittest.TestCase):
         turn = self.turn_of(HOP)
         self.assertEqual(len(turn), size)
         for beat in self.places(size, length_of(book)):
-            self.assertEqual(self.asked_soon(book, beat), turn[beat % size], beat)
+            self.assertEqual(soon(asked, book, beat), turn[beat % size], beat)
 
     def test_agains_within_agains(self):
         text = HOP + f"part a again {GREAT} hop\npart b again {GREAT} a\npart c again {GREAT} b\n"
@@ -195,13 +153,13 @@ class FarBeats(unittest.TestCase):
             book = read(LIMBS + chain("raise leg 0 1", form, 60))
             last = size ** 59
             self.assertEqual(length_of(book), last)
-            self.assertEqual(self.asked_soon(book, 0), ([0, 5], []))
+            self.assertEqual(soon(asked, book, 0), ([0, 5], []))
             for beat in (1, last // 2, last - 1, last):
-                self.assertEqual(self.asked_soon(book, beat), ([0, 0], []))
+                self.assertEqual(soon(asked, book, beat), ([0, 0], []))
             book = read(LIMBS + chain("ring ding 1", form, 60))
             for beat in (0, 1, last // 2, last - 1):
-                self.assertEqual(self.asked_soon(book, beat), ([0, 5], ["ding"]))
-            self.assertEqual(self.asked_soon(book, last), ([0, 5], []))
+                self.assertEqual(soon(asked, book, beat), ([0, 5], ["ding"]))
+            self.assertEqual(soon(asked, book, last), ([0, 5], []))
 
     # Eight limbs, each in a long chain of its own, all of them in sides: the most that can be played at one beat.
     def test_long_chains_side_by_side(self):
@@ -229,19 +187,17 @@ class FarBeats(unittest.TestCase):
                         rung = False
                     heights.append(max(gone - 1, 0) if gone < place + 2 else 2 * place + 3 - gone)
                     words += [limb] if rung else []
-                self.assertEqual(self.asked_soon(book, turn * period + beat), (heights, words[::-1]), (turn, beat))
+                self.assertEqual(soon(asked, book, turn * period + beat), (heights, words[::-1]), (turn, beat))
 
     def test_made_books_far_away(self):
         for book in drawn_books()[:60]:
-            play = book[1][-1][0]
-            more = [("far", ("again", GREAT, play)), ("more", ("row", ("far", play, "far"))),
-                    ("most", ("again", 3, "more"))]
-            far = (book[0], book[1] + more)
-            twice = play_by((book[0], book[1] + [("twice", ("again", 2, play))]))
-            size = len(twice) // 2
+            far = far_book(book)
+            turns = Turns(book, far)
+            size = turns.size
             for turn in (1, 10 ** 17 + 7, GREAT, GREAT + 1, 5 * GREAT // 2, 6 * GREAT + 2):
                 for rest in range(0, size, 1 + size // 9):
-                    self.assertEqual(asked(far, turn * size + rest), twice[size + rest], (book, turn, rest))
+                    beat = turn * size + rest
+                    self.assertEqual(asked(far, beat), turns.at(beat), (book, beat))
 
 
 class Owning(unittest.TestCase):

@@ -4,9 +4,7 @@ import unittest
 from camplay.books import read
 from camplay.errors import Long
 from camplay.telling import told
-from plays import chain, drawn_books, named, play_by
-
-LIMBS = "limbs arm 0 leg 5\n"
+from plays import LIMBS, chain, drawn_books, named, play_by
 
 
 def heights_told(text):
