@@ -19,45 +19,57 @@ def within(pieces, sizes, gone):
     return found
 
 
-# Tuples (number, beats gone) of parts that are over, their beats gone being their length or more, and
-# of the raises, holds and rings that are played at the beat. The order is that in which the parts are
-# named. A part that is over is not looked into: so however often parts are named, this stays short.
-def reached(book, sizes, beat):
-    if not 0 <= beat <= sizes[-1]:
-        raise NoBeat()
-    pieces = pieces_of(book, sizes)
-    found = []
-    todo = [(len(sizes) - 1, beat)]
-    while todo:
-        now = todo.pop()
-        part = now[0]
-        if now[1] >= sizes[part] or not pieces[part]:
-            found.append(now)
-        else:
-            todo.extend(within(pieces[part], sizes, now[1])[::-1])
-    return found
+# What hangs on no beat is reckoned once, so that many beats of one book can be asked for.
+class Stage:
+    def __init__(self, book):
+        self.limbs = numbers_of(book[0])
+        self.first = [height for name, height in book[0]]
+        self.forms = [form for name, form in book[1]]
+        self.sizes = lengths(book)
+        self.left = ends(book)
+        self.pieces = pieces_of(book, self.sizes)
+
+    # The heights at which what is over has left the limbs, and the parts that are played at the beat as
+    # tuples (number, beats gone), each ahead of those that it names, and these in their order. A part
+    # that is over is not looked into: so however often parts are named, this stays short.
+    def scene(self, beat):
+        if not 0 <= beat <= self.sizes[-1]:
+            raise NoBeat()
+        starts = list(self.first)
+        playing = []
+        todo = [(len(self.sizes) - 1, beat)]
+        while todo:
+            now = todo.pop()
+            if now[1] < self.sizes[now[0]]:
+                playing.append(now)
+                todo.extend(within(self.pieces[now[0]], self.sizes, now[1])[::-1])
+            else:
+                for limb, height in self.left[now[0]]:
+                    starts[limb] = height
+        return (starts, playing)
+
+    def heights_at(self, beat):
+        scene = self.scene(beat)
+        heights = scene[0]
+        for part, gone in scene[1]:
+            form = self.forms[part]
+            if form[0] == "raise":
+                limb = self.limbs[form[1]]
+                heights[limb] = ramp(heights[limb], form[2], form[3], gone)
+        return heights
+
+    def words_at(self, beat):
+        words = []
+        for part, gone in self.scene(beat)[1]:
+            form = self.forms[part]
+            if form[0] == "ring" and gone == 0:
+                words.append(form[1])
+        return words
 
 
 def stand(book, beat):
-    sizes = lengths(book)
-    left = ends(book)
-    limbs = numbers_of(book[0])
-    heights = [height for name, height in book[0]]
-    for part, gone in reached(book, sizes, beat):
-        form = book[1][part][1]
-        if gone >= sizes[part]:
-            for limb, height in left[part]:
-                heights[limb] = height
-        elif form[0] == "raise":
-            limb = limbs[form[1]]
-            heights[limb] = ramp(heights[limb], form[2], form[3], gone)
-    return heights
+    return Stage(book).heights_at(beat)
 
 
 def rings(book, beat):
-    words = []
-    for part, gone in reached(book, lengths(book), beat):
-        form = book[1][part][1]
-        if form[0] == "ring" and gone == 0:
-            words.append(form[1])
-    return words
+    return Stage(book).words_at(beat)

@@ -130,11 +130,49 @@ def end_by(book, name):
 
 # The whole play: tuples (heights, words) from beat 0 to its end.
 def play_by(book):
+    return plays_by(book, 1)
+
+
+# The play so many times, one behind the other, and the beat at which the last one is over.
+def plays_by(book, times):
     heights = dict(book[0])
     found = []
-    for words in beats_of(forms_of(book), book[1][-1][0], heights):
-        found.append((list(heights.values()), words))
+    for play in range(times):
+        for words in beats_of(forms_of(book), book[1][-1][0], heights):
+            found.append((list(heights.values()), words))
     return found + [(list(heights.values()), [])]
+
+
+# One drum, turned beat by beat: the pins at each of its beats.
+def pins_of_drum(drums, number, heights):
+    form = drums[number]
+    if form[0] == "raise":
+        start = heights[form[1]]
+        for j in range(form[3]):
+            yield (j, start)
+        heights[form[1]] = form[2]
+    elif form[0] in ("hold", "ring"):
+        for j in range(form[-1]):
+            yield (j,)
+    elif form[0] == "side":
+        yield from pins_of_side([pins_of_drum(drums, other, heights) for other in form[1]])
+    else:
+        for place, other in enumerate(form[1] if form[0] == "row" else [form[2]] * form[1]):
+            for pins in pins_of_drum(drums, other, heights):
+                yield (place, pins)
+
+
+def pins_of_side(turned):
+    pins = tuple(next(one) for one in turned)
+    while any(one is not None for one in pins):
+        yield pins
+        pins = tuple(next(one, None) for one in turned)
+
+
+# The pins of a whole box, from beat 0 to the end.
+def pins_by(box):
+    heights = [height for name, height in box[0]]
+    return list(pins_of_drum(box[1], len(box[1]) - 1, heights)) + [None]
 
 
 # Numbers that follow no plain rule, but are the same each time.
